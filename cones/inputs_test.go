@@ -126,7 +126,7 @@ func badMatrices() [][][]int {
 	}
 }
 
-// badVectors returns vectors that are not of so many columns, or have a number outside low to high, and every kind of both.
+// badVectors returns vectors that have not so many columns, or a number outside low to high.
 func badVectors(cols, low, high int) [][]int {
 	good := make([]int, cols)
 	l := [][]int{nil, {}, make([]int, cols-1), make([]int, cols+1), make([]int, cols+5)}
@@ -150,7 +150,7 @@ func clone(l [][]int) [][]int {
 
 func same(l, k [][]int) bool { return slices.EqualFunc(l, k, slices.Equal) }
 
-// family returns two assortments with one product for each matrix drawn by lot.
+// pair returns two assortments, drawn by lot, that have the same product.
 func (c *chance) pair(a [][]int) (x, y []int) {
 	for {
 		x, y = c.vector(len(a[0]), 0, 6), c.vector(len(a[0]), 0, 6)
